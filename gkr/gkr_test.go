@@ -156,13 +156,17 @@ func prove(t *testing.T, c api.Circuit, input, draws []uint64) told {
 }
 
 // proveAll is what is told of all circuits, with draws from anywhere: that a wrong
-// polynomial is right at one of them is not to be seen.
+// polynomial is right at one of them is not to be seen. The inputs and draws in it
+// were never handed in, so that a call that made rests of them is seen.
 func proveAll(t *testing.T) []told {
 	t.Helper()
 	draw := drawer(11)
 	var all []told
 	for _, c := range circuits() {
-		all = append(all, prove(t, c, far(draw, 1<<c.Log), far(draw, mustDraws(t, c))))
+		input, draws := far(draw, 1<<c.Log), far(draw, mustDraws(t, c))
+		a := prove(t, c, slices.Clone(input), slices.Clone(draws))
+		a.input, a.draws = input, draws
+		all = append(all, a)
 	}
 	return all
 }
@@ -868,6 +872,9 @@ func (a told) whole() told {
 func TestArgumentsStay(t *testing.T) {
 	for _, a := range proveAll(t) {
 		b := a.roomy()
+		for _, l := range append(inOrder(b.proof), b.output) {
+			raise(l)
+		}
 		before := b.whole()
 		if n := mustDraws(t, b.c); n != len(a.draws) {
 			t.Fatalf("Draws: %d, not %d", n, len(a.draws))
