@@ -58,37 +58,26 @@ func noTables() [][]uint64 {
 	return all
 }
 
-// rows is the tree, row by row, reckoned from the leaves up: number j of row k
-// stands over the 2^k numbers from j 2^k on.
-func rows(t []uint64) [][]uint64 {
-	row := make([]uint64, len(t))
-	for j, x := range t {
-		row[j] = sponge.Pair(x, 0)
+// wantRoot goes down to the leaves by halves.
+func wantRoot(t []uint64) uint64 {
+	if len(t) == 1 {
+		return sponge.Pair(t[0], 0)
 	}
-	all := [][]uint64{row}
-	for len(row) > 1 {
-		next := make([]uint64, len(row)/2)
-		for j := range next {
-			next[j] = sponge.Pair(row[2*j], row[2*j+1])
-		}
-		row = next
-		all = append(all, row)
-	}
-	return all
+	half := len(t) / 2
+	return sponge.Pair(wantRoot(t[:half]), wantRoot(t[half:]))
 }
 
-// wantPath goes up in the tree, and collects what stands beside its way.
-func wantPath(all [][]uint64, i int) []uint64 {
-	path := []uint64{}
-	for _, row := range all[:len(all)-1] {
-		if i%2 == 0 {
-			path = append(path, row[i+1])
-		} else {
-			path = append(path, row[i-1])
-		}
-		i /= 2
+// wantPath has the half beside the place last, and ahead of it the path within
+// the half that has it.
+func wantPath(t []uint64, i int) []uint64 {
+	if len(t) == 1 {
+		return nil
 	}
-	return path
+	half := len(t) / 2
+	if i < half {
+		return append(wantPath(t[:half], i), wantRoot(t[half:]))
+	}
+	return append(wantPath(t[half:], i-half), wantRoot(t[:half]))
 }
 
 func mustRoot(t *testing.T, a []uint64) uint64 {
@@ -189,8 +178,7 @@ func TestKnownClimbs(t *testing.T) {
 
 func TestRoot(t *testing.T) {
 	for _, a := range tables() {
-		all := rows(a)
-		if got, want := mustRoot(t, a), all[len(all)-1][0]; got != want || got >= p {
+		if got, want := mustRoot(t, a), wantRoot(a); got != want || got >= p {
 			t.Fatalf("Root of %d numbers: %d, not %d", len(a), got, want)
 		}
 	}
@@ -199,15 +187,34 @@ func TestRoot(t *testing.T) {
 // From each place: its path is what stands beside the way, and leads to the root.
 func TestPathAndClimb(t *testing.T) {
 	for _, a := range tables() {
-		all, root := rows(a), mustRoot(t, a)
+		root := mustRoot(t, a)
 		vars, _ := mle.Vars(a)
 		for i, leaf := range a {
 			path := mustPath(t, a, i)
-			if want := wantPath(all, i); len(path) != vars || !slices.Equal(path, want) {
+			if want := wantPath(a, i); len(path) != vars || !slices.Equal(path, want) {
 				t.Fatalf("Path of %d numbers from %d: %v, not %v", len(a), i, path, want)
 			}
 			if got := mustClimb(t, i, leaf, path); got != root {
 				t.Fatalf("of %d numbers, from %d: %d, not %d", len(a), i, got, root)
+			}
+		}
+	}
+}
+
+// Paths are Path of each place, in order, a place that stands there twice, too.
+func TestPaths(t *testing.T) {
+	draw := drawer(18)
+	for _, a := range tables() {
+		last := len(a) - 1
+		for _, places := range [][]int{nil, {}, {0}, {last}, {last, 0, last}, {int(draw() % uint64(len(a))), last / 2, 0, 0}} {
+			paths, e := tree.Paths(a, places)
+			if e != api.OK || len(paths) != len(places) {
+				t.Fatalf("Paths of %d numbers from %v: %v, %d", len(a), places, paths, e)
+			}
+			for k, i := range places {
+				if want := mustPath(t, a, i); !slices.Equal(paths[k], want) {
+					t.Fatalf("Paths of %d numbers from %v: number %d is %v, not %v", len(a), places, k, paths[k], want)
+				}
 			}
 		}
 	}
@@ -292,6 +299,12 @@ func TestNoTables(t *testing.T) {
 			if path, e := tree.Path(a, i); len(path) != 0 || e != api.ErrForm {
 				t.Errorf("Path of %d numbers from %d: %v, %d", len(a), i, path, e)
 			}
+			if paths, e := tree.Paths(a, []int{i}); len(paths) != 0 || e != api.ErrForm {
+				t.Errorf("Paths of %d numbers from %d: %v, %d", len(a), i, paths, e)
+			}
+		}
+		if paths, e := tree.Paths(a, nil); len(paths) != 0 || e != api.ErrForm {
+			t.Errorf("Paths of %d numbers from nowhere: %v, %d", len(a), paths, e)
 		}
 	}
 }
@@ -306,6 +319,11 @@ func TestPlacesOutside(t *testing.T) {
 		for _, i := range outside(n) {
 			if path, e := tree.Path(countTo(1<<n), i); len(path) != 0 || e != api.ErrArg {
 				t.Errorf("Path of %d numbers from %d: %v, %d", 1<<n, i, path, e)
+			}
+			for _, places := range [][]int{{i}, {0, i}, {i, 0}} {
+				if paths, e := tree.Paths(countTo(1<<n), places); len(paths) != 0 || e != api.ErrArg {
+					t.Errorf("Paths of %d numbers from %v: %v, %d", 1<<n, places, paths, e)
+				}
 			}
 			if r, e := tree.Climb(i, 7, countTo(n)); r != 0 || e != api.ErrArg {
 				t.Errorf("Climb from %d by %d numbers: %d, %d", i, n, r, e)
@@ -334,6 +352,7 @@ func TestArgumentsStay(t *testing.T) {
 		room := append(slices.Clone(a), 91, p, 1<<64-1)
 		before := slices.Clone(room)
 		tree.Root(room[:len(a)])
+		tree.Paths(room[:len(a)], []int{0, len(a) - 1})
 		for _, i := range []int{-1, 0, len(a) / 2, len(a) - 1, len(a)} {
 			tree.Path(room[:len(a)], i)
 			tree.Climb(i, 7, room[:len(a)])
@@ -357,6 +376,13 @@ func TestPathsAreNew(t *testing.T) {
 		}
 		if !slices.Equal(first, want) || !slices.Equal(mine, a) || !slices.Equal(mustPath(t, mine, i), want) {
 			t.Fatalf("of %d numbers: writing into a path is seen elsewhere", len(a))
+		}
+		two, _ := tree.Paths(mine, []int{i, i})
+		for k := range two[1][:cap(two[1])] {
+			two[1][:cap(two[1])][k] = 77
+		}
+		if !slices.Equal(two[0], want) {
+			t.Fatalf("of %d numbers: two paths of one answer share memory", len(a))
 		}
 		for k := range mine[:cap(mine)] {
 			mine[:cap(mine)][k] = 78
